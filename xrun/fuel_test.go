@@ -77,10 +77,17 @@ func TestFuel(t *testing.T) { // P15.1: how much is taken; P15.2: with more the 
 		{1 + 1, rule("/", "<x:number/>")},
 		{1 + 1 + 1, rule("/", "<x:number format='{1}'/>")},
 		{1 + 1 + 1 + 1, rule("/", number("1", "{1}"))},
-		// Globals: their expressions, and what is in them.
-		{1 + 1, variable("v", "1") + rule("/", "")},
-		{1 + 2, "<x:variable name='v'>x<i/></x:variable>" + rule("/", "")},
-		{1 + 1 + 2 + 2, "<x:variable name='v'>" + apply("a", "") + "</x:variable>" + rule("/", "") + rule("a", "x")},
+		// Globals: one each, their expressions, and what is in them.
+		{1 + 1 + 1, variable("v", "1") + rule("/", "")},
+		{1 + 1 + 3, variable("v", "1 + 1") + rule("/", "")},
+		{1 + 1, "<x:variable name='v'/>" + rule("/", "")},
+		{1 + 1, "<x:param name='v'/>" + rule("/", "")},
+		{1 + 1 + 1, "<x:param name='v' select='1'/>" + rule("/", "")},
+		{1 + 2*(1+1), variable("v", "$w") + variable("w", "1") + rule("/", "")},
+		{1 + 1 + 2, "<x:variable name='v'>x<i/></x:variable>" + rule("/", "")},
+		{1 + 1 + 2, "<x:param name='v'>x<i/></x:param>" + rule("/", "")},
+		{1 + 1 + 1 + 1 + 1, "<x:variable name='v'>" + variable("w", "1") + "x</x:variable>" + rule("/", "")},
+		{1 + 1 + 1 + 2 + 2, "<x:variable name='v'>" + apply("a", "") + "</x:variable>" + rule("/", "") + rule("a", "x")},
 		// Patterns take none.
 		{1, rule("/", "") + rule("*[//*[//*]]", "") + rule("/", "")},
 	} {
@@ -121,20 +128,44 @@ func TestFuelOfImports(t *testing.T) { // P15.1: templates are applied to the no
 	}
 	p = load(t, "<x:variable name='v'><x:apply-imports/></x:variable>"+rule("/", ""))
 	a, e = xrun.Run(p, parse(t, "<a/>"), 100)
-	if e != api.OK || a.Fuel != 1+1 {
+	if e != api.OK || a.Fuel != 1+1+1 {
 		t.Error(a, e)
 	}
 }
 
-func TestFuelOfGivenParams(t *testing.T) { // P15.1: what is handed in takes none
-	p := load(t, "<x:param name='v' select='1 + 1'/>"+rule("/", ""))
-	for want, params := range map[int][]api.Pair{4: nil, 1: {{Name: "v", Value: "x"}}} {
-		a, e := xrun.Run(p, parse(t, "<a/>"), want, params...)
-		if e != api.OK || a.Fuel != want {
-			t.Error(a, e)
+func TestFuelOfGivenParams(t *testing.T) { // P15.1: where a value is handed in the parameter takes one, its Select or Kids none
+	x := parse(t, "<a/>")
+	for _, c := range []struct {
+		want   int
+		rules  string
+		params []api.Pair
+	}{
+		{1 + 1 + 3, "<x:param name='v' select='1 + 1'/>", nil},
+		{1 + 1, "<x:param name='v' select='1 + 1'/>", []api.Pair{{Name: "v", Value: "x"}}},
+		{1 + 1, "<x:param name='v' select='1 + 1'/>", []api.Pair{{Name: "v", Value: "x"}, {Name: "v", Value: "y"}}},
+		{1 + 1, "<x:param name='v'>x<i/></x:param>", []api.Pair{{Name: "v", Value: "x"}}},
+		{1 + 1 + 1 + 3, "<x:param name='v' select='1'/><x:param name='w' select='1 + 1'/>", []api.Pair{{Name: "v", Value: "x"}}},
+		// Of a variable, or of another name, it is not.
+		{1 + 1 + 3, variable("v", "1 + 1"), []api.Pair{{Name: "v", Value: "x"}}},
+		{1 + 1 + 3, "<x:param name='v' select='1 + 1'/>", []api.Pair{{Name: "w", Value: "x"}}},
+	} {
+		p := load(t, c.rules+rule("/", ""))
+		a, e := xrun.Run(p, x, c.want, c.params...)
+		if e != api.OK || a.Fuel != c.want {
+			t.Errorf("%s: %+v, %d, want %d", c.rules, a, e, c.want)
 		}
-		if _, e := xrun.Run(p, parse(t, "<a/>"), want-1, params...); e != api.ErrFuel {
-			t.Error(e)
+		if _, e := xrun.Run(p, x, c.want-1, c.params...); e != api.ErrFuel {
+			t.Errorf("%s, with %d: %d", c.rules, c.want-1, e)
+		}
+	}
+}
+
+func TestFuelOfImportedGlobals(t *testing.T) { // P15.1: of one name just the one that counts most is done
+	for want, rules := range map[int]string{1 + 1 + 1: variable("v", "1"), 1 + 2*(1+1) + 2: variable("w", "1 + 1")} {
+		p := load(t, "<x:import href='i'/>"+rules+rule("/", ""), "i", variable("v", "1"))
+		a, e := xrun.Run(p, parse(t, "<a/>"), 100)
+		if e != api.OK || a.Fuel != want {
+			t.Errorf("%s: %+v, %d, want %d", rules, a, e, want)
 		}
 	}
 }
@@ -155,6 +186,13 @@ func TestErrorsAheadOfFuel(t *testing.T) { // P15.1: the first error, whichever 
 		{3, api.ErrKind, rule("/", each("1", ""))},
 		{1, api.ErrFuel, rule("/", "<x:message terminate='yes'/>")},
 		{2, api.ErrStop, rule("/", "<x:message terminate='yes'/>")},
+		{0, api.ErrFuel, variable("v", "1")},
+		{1, api.ErrFuel, variable("v", "$none")},
+		{2, api.ErrName, variable("v", "$none")},
+		{1, api.ErrFuel, "<x:variable name='v'>" + attribute("p", "") + "</x:variable>"},
+		{2, api.ErrBuild, "<x:variable name='v'>" + attribute("p", "") + "</x:variable>"},
+		{1, api.ErrFuel, "<x:variable name='v'><x:message terminate='yes'/></x:variable>"},
+		{2, api.ErrStop, "<x:variable name='v'><x:message terminate='yes'/></x:variable>"},
 	} {
 		if _, e := xrun.Run(load(t, c.rules), x, c.fuel); e != c.want {
 			t.Errorf("%s, with %d: %d, want %d", c.rules, c.fuel, e, c.want)

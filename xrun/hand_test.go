@@ -204,6 +204,30 @@ func TestGlobalsByHand(t *testing.T) { // P15.1: globals that no stylesheet that
 	expect(t, "56", compile(t, s), x, api.Pair{Name: "v", Value: "9"})
 }
 
+func TestFuelOfGlobalsByHand(t *testing.T) { // P15.1: each one takes one, of one name too, and whatever it is
+	x := parse(t, "<a/>")
+	for i, c := range []struct {
+		want    int
+		globals []api.Instr
+	}{
+		{1, nil},
+		{1 + 4*(1+1), []api.Instr{called(api.Let, "v", "1"), called(api.Given, "v", "2"), called(api.Given, "w", "3"), called(api.Let, "w", "4")}},
+		{1 + (1 + 1) + (1 + 1), []api.Instr{called(api.Literal, "v", "5"), called(api.Copy, "w", "", words("6"))}},
+		{1 + 1, []api.Instr{called(api.When, "v", "")}},
+		{1 + 1000, slices.Repeat([]api.Instr{called(api.Let, "v", "")}, 1000)},
+	} {
+		s := atTop(nil)
+		s.Globals = c.globals
+		p := compile(t, s)
+		if a, e := xrun.Run(p, x, c.want); e != api.OK || a.Fuel != c.want {
+			t.Errorf("%d: %+v, %d, want %d", i, a, e, c.want)
+		}
+		if _, e := xrun.Run(p, x, c.want-1); e != api.ErrFuel {
+			t.Errorf("%d: %d with too little", i, e)
+		}
+	}
+}
+
 func TestRulesByHand(t *testing.T) { // P15.1: levels and priorities that no stylesheet that is read has
 	x := parse(t, "<a>x</a>")
 	num := func(kind api.NumKind, v int64) api.Num { return api.Num{Kind: kind, V: v} }

@@ -67,6 +67,10 @@ type ended struct {
 
 func (m *model) all(order []int, params []api.Pair) ended {
 	for _, i := range order {
+		if m.left == 0 {
+			return ended{errno: api.ErrFuel}
+		}
+		m.left--
 		g := m.sheet.Globals[i]
 		v, e := api.Value{}, api.OK
 		handed := false

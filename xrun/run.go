@@ -74,6 +74,8 @@ func (r *run) answer(params []api.Pair) (a Answer, e api.Errno) {
 
 // addGlobal adds a variable or parameter of all to those that were reckoned ahead of it.
 func (r *run) addGlobal(global api.Instr, params []api.Pair) {
+	// It is an instruction that is done, though no body does it, and also where its value is handed in.
+	r.take(1)
 	value := r.globalValue(global, params)
 	r.globals.add(global.Name, value)
 	// A pattern may name it.

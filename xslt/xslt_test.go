@@ -133,6 +133,7 @@ func TestErrors(t *testing.T) { // P16.1: the error of each step, in their order
 	code := named("s", rule("a", "<x:value-of select='['/>"))
 	kinds := named("s", rule("a", "<x:message>m</x:message><x:for-each select='1'/>"))
 	written := named("s", output("method='html'")+rule("a", "<x:message>m</x:message><br>x</br>"))
+	global := named("s", "<x:param name='v' select='1'/>")
 	long := named("s", rule("a", strings.Repeat("<x:copy-of select='.'/>", 3)))
 	for i, c := range []struct {
 		want   api.Errno
@@ -174,6 +175,10 @@ func TestErrors(t *testing.T) { // P16.1: the error of each step, in their order
 		{api.ErrFuel, good, "s", fine, nil, 0},
 		{api.ErrFuel, good, "s", fine, nil, 5},
 		{api.OK, good, "s", fine, nil, 6},
+		{api.ErrFuel, "<a/>", "s", global, nil, 1 + 1 + 1},
+		{api.OK, "<a/>", "s", global, nil, 1 + 1 + 2},
+		{api.ErrFuel, "<a/>", "s", global, []api.Pair{{Name: "v"}}, 1 + 1},
+		{api.OK, "<a/>", "s", global, []api.Pair{{Name: "v"}}, 1 + 2},
 		{api.ErrKind, good, "s", kinds, nil, 100},
 		{api.ErrStop, good, "s", named("s", output("method='html'")+rule("a", "<br>x"+stops+"</br>")), nil, 100},
 		// xout.Bytes's.
